@@ -4,6 +4,7 @@ import (
 	"strings"
 
 	"calends/api"
+	"calends/ascii"
 )
 
 // reader is what is left of a row.
@@ -34,7 +35,7 @@ func (r *reader) prop() (api.Prop, error) {
 	if !r.sign(':') {
 		return p, flaw("no value")
 	}
-	if !stands(r.rest) {
+	if !ascii.Stands(r.rest) {
 		return p, flaw("a value that may not stand")
 	}
 	p.Value = r.rest
@@ -70,7 +71,7 @@ func (r *reader) value() (string, error) {
 	if quoted {
 		ends = `"`
 	}
-	value := r.take(func(c byte) bool { return mayStand(c) && strings.IndexByte(ends, c) < 0 })
+	value := r.take(func(c byte) bool { return ascii.MayStand(c) && strings.IndexByte(ends, c) < 0 })
 	if quoted && !r.sign('"') {
 		return "", flaw("a quoted value without an end")
 	}
@@ -78,7 +79,7 @@ func (r *reader) value() (string, error) {
 }
 
 // name is the name that comes next, in great letters.
-func (r *reader) name() string { return great(r.take(inName)) }
+func (r *reader) name() string { return ascii.Great(r.take(inName)) }
 
 // take is the bytes that come next, as many as are such.
 func (r *reader) take(such func(byte) bool) string {
