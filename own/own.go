@@ -29,6 +29,13 @@ func Comp(c api.Comp) api.Comp {
 // Comps is a copy of components.
 func Comps(l []api.Comp) []api.Comp { return List(l, Comp) }
 
+// Contact is a copy of a contact.
+func Contact(c api.Contact) api.Contact {
+	c.Types = slices.Clone(c.Types)
+	c.Rows = List(c.Rows, slices.Clone)
+	return c
+}
+
 // List is a copy of a list, by a copy of each member.
 func List[T any](l []T, one func(T) T) []T {
 	if len(l) == 0 {

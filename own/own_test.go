@@ -29,3 +29,15 @@ func TestCopiesShareNothing(t *testing.T) {
 		t.Fatalf("%v", was)
 	}
 }
+
+func TestContacts(t *testing.T) {
+	was := api.Contact{Types: []string{"a"}, Rows: [][]string{{"b"}, nil}}
+	c := own.Contact(was)
+	if !reflect.DeepEqual(c, was) {
+		t.Fatalf("%v", c)
+	}
+	c.Types[0], c.Rows[0][0] = "z", "z"
+	if was.Types[0] != "a" || was.Rows[0][0] != "b" {
+		t.Fatalf("%v", was)
+	}
+}
