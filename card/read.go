@@ -12,6 +12,7 @@ import (
 	"calends/event"
 	"calends/line"
 	"calends/text"
+	"calends/vcard"
 )
 
 // flaw is that a property can't be read, with its name.
@@ -32,7 +33,7 @@ func Parse(s string) (api.Card, error) {
 	if e != nil {
 		return api.Card{}, e
 	}
-	if len(l) != 1 || l[0].Name != cardName || len(l[0].Comps) > 0 {
+	if len(l) != 1 || l[0].Name != vcard.CardIn || len(l[0].Comps) > 0 {
 		return api.Card{}, api.ErrKind
 	}
 	c, e := read(l[0])
@@ -64,9 +65,9 @@ func read(x api.Comp) (api.Card, error) {
 		return l, nil
 	}
 	var e1, e2, e3 error
-	c.Tels, e1 = contacts(telName)
-	c.Emails, e2 = contacts(emailName)
-	c.Adrs, e3 = contacts(adrName)
+	c.Tels, e1 = contacts(vcard.Tel)
+	c.Emails, e2 = contacts(vcard.Email)
+	c.Adrs, e3 = contacts(vcard.Adr)
 	if e := cmp.Or(e1, e2, e3); e != nil {
 		return c, e
 	}
@@ -76,35 +77,35 @@ func read(x api.Comp) (api.Card, error) {
 
 // row is a contact's row, by which contacts are in order.
 func row(name string, x api.Contact) string {
-	s, _ := line.Print(contactProp(name, x))
+	s, _ := line.Print(vcard.Contact(name, x))
 	return s
 }
 
 // readNames reads a card's version, UID and names.
 func readNames(c *api.Card, x api.Comp) error {
 	values := map[string][]string{}
-	for _, name := range []string{versionName, uidName, nameName, fullName} {
+	for _, name := range []string{vcard.Version, vcard.UID, vcard.Name, vcard.Full} {
 		for _, p := range comp.All(x, name) {
 			if p.Group != "" || len(p.Params) > 0 {
 				return flaw{name, api.ErrForm}
 			}
 			values[name] = append(values[name], p.Value)
 		}
-		if n := len(values[name]); n > 1 || n == 0 && name != fullName {
+		if n := len(values[name]); n > 1 || n == 0 && name != vcard.Full {
 			return flaw{name, api.ErrForm}
 		}
 	}
-	if values[versionName][0] != version {
-		return flaw{versionName, api.ErrForm}
+	if values[vcard.Version][0] != vcard.CardVersion {
+		return flaw{vcard.Version, api.ErrForm}
 	}
-	c.UID = values[uidName][0]
+	c.UID = values[vcard.UID][0]
 	var e error
-	if c.Name, e = text.Unescape(values[nameName][0]); e != nil {
-		return flaw{nameName, e}
+	if c.Name, e = text.Unescape(values[vcard.Name][0]); e != nil {
+		return flaw{vcard.Name, e}
 	}
-	for _, value := range values[fullName] {
+	for _, value := range values[vcard.Full] {
 		if c.Full, e = readRows(value, fullRows); e != nil {
-			return flaw{fullName, e}
+			return flaw{vcard.Full, e}
 		}
 	}
 	return nil
@@ -127,13 +128,13 @@ func readContact(p api.Prop) (api.Contact, error) {
 	x := api.Contact{Group: p.Group}
 	for _, q := range p.Params {
 		switch q.Name {
-		case typeParam:
+		case vcard.Type:
 			for _, one := range q.Values {
 				x.Types = append(x.Types, ascii.Small(one))
 			}
 			slices.Sort(x.Types)
 			x.Types = slices.Compact(x.Types)
-		case prefParam:
+		case vcard.Pref:
 			n, e := readPref(q.Values)
 			if e != nil {
 				return x, e
@@ -143,7 +144,7 @@ func readContact(p api.Prop) (api.Contact, error) {
 			return x, api.ErrForm
 		}
 	}
-	if p.Name == adrName {
+	if p.Name == vcard.Adr {
 		rows, e := readRows(p.Value, adrRows)
 		x.Rows = rows
 		return x, e

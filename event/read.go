@@ -8,18 +8,14 @@ import (
 
 	"calends/api"
 	"calends/comp"
+	"calends/entry"
 	"calends/rule"
 	"calends/when"
 	"calends/zone"
 )
 
-// The parameters of moments, and what VALUE may be.
-const (
-	valueParam = "VALUE"
-	zoneParam  = "TZID"
-	dateValue  = "DATE"
-	timeValue  = "DATE-TIME"
-)
+// timeValue is what VALUE may be of moments that are no days.
+const timeValue = "DATE-TIME"
 
 // flaw is that something can't be read, with its name.
 type flaw struct {
@@ -63,15 +59,15 @@ func Parse(s string) (api.Object, error) {
 
 // kindOf is the kind of the items that components hold; none, if they are not built as an object's.
 func kindOf(l []api.Comp) string {
-	if len(l) != 1 || l[0].Name != calendarName {
+	if len(l) != 1 || l[0].Name != entry.Calendar {
 		return ""
 	}
 	kind := ""
 	for _, c := range l[0].Comps {
-		if c.Name == zoneName {
+		if c.Name == entry.Zone {
 			continue
 		}
-		if c.Name != eventName && c.Name != todoName || kind != "" && kind != c.Name || slices.ContainsFunc(c.Comps, noAlarm) {
+		if c.Name != entry.Event && c.Name != entry.Todo || kind != "" && kind != c.Name || slices.ContainsFunc(c.Comps, noAlarm) {
 			return ""
 		}
 		kind = c.Name
@@ -80,20 +76,20 @@ func kindOf(l []api.Comp) string {
 }
 
 // noAlarm tells whether a component is not built as an alarm's.
-func noAlarm(c api.Comp) bool { return c.Name != alarmName || len(c.Comps) > 0 }
+func noAlarm(c api.Comp) bool { return c.Name != entry.AlarmIn || len(c.Comps) > 0 }
 
 // read is the object that a component tells, be it right or not.
 func read(c api.Comp, kind string) (api.Object, error) {
 	o := api.Object{Kind: kind}
-	versions := comp.All(c, versionName)
-	if len(versions) != 1 || !bare(versions[0]) || versions[0].Value != version {
-		return o, flaw{versionName, api.ErrForm}
+	versions := comp.All(c, entry.Version)
+	if len(versions) != 1 || !bare(versions[0]) || versions[0].Value != entry.CalendarVersion {
+		return o, flaw{entry.Version, api.ErrForm}
 	}
 	o.Extra = others(c, isVersion)
-	for _, x := range comp.Within(c, zoneName) {
+	for _, x := range comp.Within(c, entry.Zone) {
 		z, e := zone.Read(x)
 		if e != nil {
-			return o, flaw{zoneName, e}
+			return o, flaw{entry.Zone, e}
 		}
 		o.Zones = append(o.Zones, z)
 	}
@@ -104,7 +100,7 @@ func read(c api.Comp, kind string) (api.Object, error) {
 			return o, e
 		}
 		if at > 0 && x.uid != o.UID {
-			return o, flaw{uidName, api.ErrForm}
+			return o, flaw{entry.UID, api.ErrForm}
 		}
 		o.UID = x.uid
 		if len(x.Recur) > 0 {
@@ -115,7 +111,7 @@ func read(c api.Comp, kind string) (api.Object, error) {
 		mains++
 	}
 	if mains != 1 {
-		return o, flaw{recurName, api.ErrForm}
+		return o, flaw{entry.Recur, api.ErrForm}
 	}
 	return o, nil
 }
@@ -134,18 +130,18 @@ func readItem(c api.Comp) (item, error) {
 			continue
 		}
 		name := p.Name
-		if name == dueName {
-			name = endName // they stand for one another
+		if name == entry.Due {
+			name = entry.End // they stand for one another
 		}
 		count[name]++
-		if count[name] > 1 && name != rdateName && name != exdateName {
+		if count[name] > 1 && name != entry.RDate && name != entry.EXDate {
 			return x, flaw{p.Name, api.ErrForm}
 		}
 		if e := readKnown(&x, c.Name, p); e != nil {
 			return x, flaw{p.Name, e}
 		}
 	}
-	if count[uidName] == 0 || count[startName] == 0 {
+	if count[entry.UID] == 0 || count[entry.Start] == 0 {
 		return x, flaw{c.Name, api.ErrForm}
 	}
 	for _, a := range c.Comps {
@@ -166,21 +162,21 @@ func readKnown(x *item, kind string, p api.Prop) error {
 		return e
 	}
 	switch p.Name {
-	case recurName:
+	case entry.Recur:
 		return moments(&x.Recur, false)
-	case rdateName:
+	case entry.RDate:
 		return moments(&x.RDates, true)
-	case exdateName:
+	case entry.EXDate:
 		return moments(&x.EXDates, true)
-	case startName:
+	case entry.Start:
 		var l []api.Moment
 		e := moments(&l, false)
 		if e == nil {
 			x.Start = l[0]
 		}
 		return e
-	case endName, dueName:
-		if (p.Name == dueName) != (kind == todoName) {
+	case entry.End, entry.Due:
+		if (p.Name == entry.Due) != (kind == entry.Todo) {
 			return api.ErrForm
 		}
 		return moments(&x.End, false)
@@ -194,11 +190,11 @@ func readKnown(x *item, kind string, p api.Prop) error {
 // readPlain reads a property of an item that is no moment.
 func readPlain(x *item, p api.Prop) error {
 	switch p.Name {
-	case durationName:
+	case entry.Duration:
 		n, e := when.Span(p.Value)
 		x.Span = append(x.Span, n)
 		return e
-	case ruleName:
+	case entry.Rule:
 		r, e := rule.Parse(p.Value)
 		x.Rule = append(x.Rule, r)
 		return e
@@ -215,9 +211,9 @@ func readMoments(p api.Prop, many bool) ([]api.Moment, error) {
 		switch {
 		case len(q.Values) > 1:
 			return nil, api.ErrForm
-		case q.Name == valueParam && (value == dateValue || value == timeValue):
-			date = value == dateValue
-		case q.Name == zoneParam && value != "":
+		case q.Name == entry.Value && (value == entry.DateValue || value == timeValue):
+			date = value == entry.DateValue
+		case q.Name == entry.ZoneID && value != "":
 			id = value
 		default:
 			return nil, api.ErrForm
@@ -240,13 +236,13 @@ func readMoments(p api.Prop, many bool) ([]api.Moment, error) {
 
 // readAlarm reads an alarm's component.
 func readAlarm(c api.Comp) (api.Alarm, error) {
-	actions, triggers := comp.All(c, actionName), comp.All(c, triggerName)
+	actions, triggers := comp.All(c, entry.Action), comp.All(c, entry.Trigger)
 	if len(actions) != 1 || !bare(actions[0]) || len(triggers) != 1 || !bare(triggers[0]) {
-		return api.Alarm{}, flaw{alarmName, api.ErrForm}
+		return api.Alarm{}, flaw{entry.AlarmIn, api.ErrForm}
 	}
 	n, e := when.Span(triggers[0].Value)
 	if e != nil {
-		return api.Alarm{}, flaw{triggerName, e}
+		return api.Alarm{}, flaw{entry.Trigger, e}
 	}
 	return api.Alarm{Action: actions[0].Value, Behind: n, Extra: others(c, ofAlarm)}, nil
 }
