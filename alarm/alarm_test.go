@@ -217,9 +217,18 @@ func TestDue(t *testing.T) {
 	notDue(t, o, at("20000102T100000Z"), api.ErrNone)
 	notDue(t, o, at("20000102"), api.ErrNone)
 	due(t, object(t, entry("DTSTART;VALUE=DATE:20000101")), "20000101")
-	due(t, object(t, entry("DTSTART:00010101T000000Z", rings("-PT1S"), rings("PT1S"))), "00010101T000000Z", "00010101T000001Z")
+	due(t, object(t, entry("DTSTART:00010101T000000Z", rings("-PT1S"), rings("PT1S"), rings("PT0S"))), "00010101T000000Z", "00010101T000001Z", "00010101T000000Z")
 	due(t, object(t, entry("DTSTART:99991231T235958Z", rings("PT2S"), rings("PT1S"))), "99991231T235958Z", "99991231T235959Z")
 	notDue(t, object(t, entry("DTSTART:99991231T235959Z", rings("PT0S"))), at("99991231T235959Z"), api.ErrNone)
+	// Another one that stands in its place is found up to two days away.
+	for to, found := range map[string]bool{"20000105T100000Z": true, "20000105T095959Z": false, "20000109T095959Z": true, "20000109T100000Z": false} {
+		o := object(t, entry("DTSTART:20000107T100000Z", "END:VEVENT", "BEGIN:VEVENT", "UID:u", "RECURRENCE-ID:20000107T100000Z", "DTSTART:"+to, rings("PT0S")))
+		if found {
+			due(t, o, "20000107T100000Z", to)
+		} else {
+			notDue(t, o, at("20000107T100000Z"), api.ErrNone)
+		}
+	}
 	notDue(t, api.Object{}, at("20000101"), api.ErrArg)
 	notDue(t, api.Object{}, api.Time{}, api.ErrArg)
 	notDue(t, o, api.Time{}, api.ErrNone)

@@ -41,7 +41,7 @@ func is(t *testing.T, what string, got []api.Busy, want ...api.Busy) {
 
 // wrong are busy times that are not right.
 func wrong() []api.Busy {
-	return []api.Busy{{}, b(0, 1, 2), b(4, 1, 2), b(-1, 1, 2), b(yes, 2, 1), b(yes, 1, 1), {Kind: yes, From: at("20000101T000000"), To: hour(1)}, {Kind: yes, From: hour(0), To: at("20000102")}, {Kind: yes, From: hour(0)}, {Kind: yes, To: hour(1)}}
+	return []api.Busy{{}, b(0, 1, 2), b(4, 1, 2), b(-1, 1, 2), b(yes, 2, 1), b(yes, 1, 1), {Kind: yes, From: at("20000101T000000"), To: hour(1)}, {Kind: yes, From: hour(0), To: at("20000102")}, {Kind: yes, From: hour(0)}, {Kind: yes, To: hour(1)}, {Kind: yes, From: api.Time{UTC: true}, To: hour(1)}, {Kind: yes, From: hour(0), To: api.Time{UTC: true}}}
 }
 
 // entry is the text of one at 10:00 of 2000-01-01.
@@ -148,6 +148,8 @@ func TestFreeAndFirst(t *testing.T) {
 			is(t, "Free of no window", busy.Free(nil, x.From, x.To, 1))
 		}
 	}
+	second := api.Busy{From: hour(1), To: when.At(when.Seconds(hour(1))+1, hour(1))}
+	is(t, "Free of one second", busy.Free([]api.Busy{b(yes, 0, 1), {Kind: yes, From: second.To, To: hour(2)}}, hour(0), hour(2), 1), second)
 	is(t, "Free of all", busy.Free(nil, hour(0), hour(1), 0), b(no, 0, 1))
 }
 

@@ -152,7 +152,7 @@ func TestRightOfContacts(t *testing.T) {
 		}
 		changed(true, func(x *api.Contact) { x.Group = "G-1" })
 		changed(false, func(x *api.Contact) { x.Group = "g" })
-		changed(true, func(x *api.Contact) { x.Types = []string{"-", "0", "a", "b", strings.Repeat("c", 20)} })
+		changed(true, func(x *api.Contact) { x.Types = []string{"-", "0", "9", "a", strings.Repeat("z", 20)} })
 		changed(false, func(x *api.Contact) { x.Types = []string{"a", "b", "c", "d", "e", "f"} })
 		changed(false, func(x *api.Contact) { x.Types = []string{strings.Repeat("c", 21)} })
 		for _, l := range [][]string{{"A"}, {""}, {"a b"}, {"é"}, {"b", "a"}, {"a", "a"}, {"a_"}} {

@@ -74,6 +74,7 @@ func TestParse(t *testing.T) {
 	parses(t, "a:", prop("A", ""))
 	parses(t, "SUMMARY:x:y;z", prop("SUMMARY", "x:y;z"))
 	parses(t, "x-9:\té\xff", prop("X-9", "\té\xff"))
+	parses(t, "azAZ09-;zA=:1", prop("AZAZ09-", "1", param("ZA", "")))
 	parses(t, "g.tel;Type=home,\"a;b\";x=a^^b:1", api.Prop{Group: "G", Name: "TEL", Params: []api.Param{param("TYPE", "home", "a;b"), param("X", "a^b")}, Value: "1"})
 	parses(t, "a;x=:1", prop("A", "1", param("X", "")))
 	parses(t, "a;x=,:1", prop("A", "1", param("X", "", "")))

@@ -248,6 +248,41 @@ func TestInstancesRefuses(t *testing.T) {
 	has(t, long, "99991230T000000Z", "99991231T000000Z")
 }
 
+// The rule is looked at from two days, and as long as the entry is, ahead of the window, up to two days behind it.
+func TestMargins(t *testing.T) {
+	daily := func(start string, span int) api.Object {
+		return entry(at(start), func(o *api.Object) {
+			o.Main.Rule = by("FREQ=DAILY")
+			if span > 0 {
+				o.Main.Span = []int{span}
+			}
+		})
+	}
+	// The thousandth day from 2000-01-01 on is 2002-09-26.
+	for _, c := range []struct {
+		start, from, to string
+		span            int
+		ok              bool
+	}{
+		{"20000101T000000Z", "20000103T000000Z", "20020925T000000Z", 0, true}, {"20000101T000000Z", "20000103T000000Z", "20020925T000001Z", 0, false}, {"20000101T000000Z", "20000103T000001Z", "20020925T000001Z", 0, true},
+		{"20000101T000000Z", "20000103T000001Z", "20020925T000001Z", 1, false}, {"20000101T000000Z", "20000103T000002Z", "20020925T000001Z", 1, true},
+		{"20000101", "20000105T000000Z", "20020925T000000Z", 86400, true}, {"20000101", "20000103T235959Z", "20020926T000000Z", 86400, false}, {"20000101", "20000105T000000Z", "20020925T235959Z", 86400, true}, {"20000101", "20000105T000000Z", "20020926T235959Z", 86400, true}, {"20000101", "20000105T000000Z", "20020927T000000Z", 86400, false},
+	} {
+		_, e := query.Instances(daily(c.start, c.span), at(c.from).Time, at(c.to).Time)
+		if c.ok && e != nil || !c.ok && !errors.Is(e, api.ErrInstance) {
+			t.Errorf("%v: %v", c, e)
+		}
+	}
+	// The period 40000 is 2109-07-08.
+	hasNot(t, daily("20000101T000000Z", 0), "21090701T000000Z", "21090706T000001Z", api.ErrMany)
+	hasNot(t, daily("20000101", 0), "21090701T000000Z", "21090707T000000Z", api.ErrMany)
+	for _, c := range [][2]string{{"20000101T000000Z", "21090706T000000Z"}, {"20000101", "21090706T235959Z"}} {
+		if l, e := query.Instances(daily(c[0], 0), at("21090701T000000Z").Time, at(c[1]).Time); e != nil || len(l) < 5 {
+			t.Errorf("%v: %v, %v", c, l, e)
+		}
+	}
+}
+
 func TestThousandInstances(t *testing.T) {
 	o := entry(at("20000101T000000Z"), func(o *api.Object) {
 		o.Main.Rule = by("FREQ=HOURLY;COUNT=999")

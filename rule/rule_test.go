@@ -190,6 +190,11 @@ func TestRightOfSetPosAndClock(t *testing.T) {
 	is(t, true, r)
 	r.Second = []int{5, 6}
 	is(t, false, r)
+	for _, l := range []api.Rule{{Minute: upTo(0, 23), Second: upTo(0, 1)}, {Hour: upTo(0, 23), Second: upTo(0, 1)}, {Hour: upTo(0, 23), Minute: upTo(0, 1)}} {
+		l.Interval = 1
+		is(t, true, l)
+	}
+	r.Second = nil
 	r.Hour, r.Minute = upTo(0, 6), upTo(0, 6)
 	is(t, false, r)
 	r.Second = nil

@@ -147,6 +147,7 @@ func TestPush(t *testing.T) {
 	s := made(t, 200, 20)
 	c := cell(1, "x", "k", "v", 1)
 	takes(t, s, push(1, 3, 0, c), api.Reply{})
+	takes(t, s, push(api.MaxDevs, 0, 0), api.Reply{})
 	// The same once more, and older ones, whatever they have.
 	for _, m := range []api.Msg{push(1, 3, 0, c), push(1, 2, -5), push(1, 0, 0), push(2, 0, 0), push(2, -1, 0), push(1, 3, 0, cell(1, "x", "k", "other", 9))} {
 		takes(t, s, m, api.Reply{})
@@ -250,8 +251,18 @@ func TestQuery(t *testing.T) {
 	if want := []string{"y 20000101T000000Z", "z 20000101T000000Z", "z 20000102T000000Z", "y 20000102T100000Z"}; r.Err != 0 || !slices.Equal(got, want) {
 		t.Fatalf("%v, %v; want %v", r.Err, got, want)
 	}
-	for _, c := range [][2]api.Time{{{}, to}, {from, {}}, {at("20000101"), to}, {from, at("20000103T000000")}, {to, from}} {
+	for _, c := range [][2]api.Time{{{}, to}, {from, {}}, {{UTC: true}, to}, {from, {UTC: true}}, {at("20000101"), to}, {from, at("20000103T000000")}, {to, from}} {
 		refuses(t, s, query(c[0], c[1]), api.ErrArg)
+		refuses(t, made(t, 6, 0), query(c[0], c[1]), api.ErrArg)
+	}
+	takes(t, made(t, 6, 0), query(from, from), api.Reply{})
+	// As many as there may be, in all.
+	both := made(t, 400, 9000)
+	for dev, count := range []int{501, 499} {
+		both.Take(push(dev+1, 1, 0, put(t, dev+1, fmt.Sprint(dev), entry(fmt.Sprint(dev), "DTSTART:20000101T000000Z", fmt.Sprintf("RRULE:FREQ=HOURLY;COUNT=%d", count)))...))
+	}
+	if r := both.Take(query(from, at("20010101T000000Z"))); r.Err != 0 || len(r.Found) != api.MaxInstances {
+		t.Fatalf("%v, %d", r.Err, len(r.Found))
 	}
 	refuses(t, s, query(from, at("20050101T000000Z")), api.ErrInstance)
 	refuses(t, s, query(at("22000101T000000Z"), at("22000102T000000Z")), api.ErrMany)

@@ -173,6 +173,7 @@ func TestReadPassesOver(t *testing.T) {
 	l := rows()
 	l[1] = "G.TZID;X=1:F\r\nX-OTHER:1\r\nDTSTART:x"
 	l[3] = "DTSTART;VALUE=DATE-TIME:19700101T000000\r\nTZNAME:x\r\nTZID:y\r\nBEGIN:DAYLIGHT\r\nEND:DAYLIGHT"
+	l[2] = "BEGIN:OTHER\r\nDTSTART:x\r\nEND:OTHER\r\n" + l[2]
 	l[7] += "\r\nBEGIN:OTHER\r\nDTSTART:x\r\nEND:OTHER"
 	want := fixed(3600)
 	want.Obs[0].Rule = by("FREQ=YEARLY")
