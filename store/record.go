@@ -63,7 +63,7 @@ func (r issued) do(s *Store) error {
 		return errRecord
 	}
 	s.issued = r.token
-	s.tokens[r.token] = s.main()
+	s.hold(r.token)
 	return nil
 }
 
@@ -77,7 +77,7 @@ func (r left) do(s *Store) error {
 		if token <= last || token > r.issued {
 			return errRecord
 		}
-		s.tokens[token] = root
+		s.hold(token)
 		last = token
 	}
 	for _, seq := range r.seqs {
