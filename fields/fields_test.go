@@ -296,3 +296,77 @@ func TestAgainAndInAnyOrder(t *testing.T) {
 		}
 	}
 }
+
+// pick is some of some texts, in whatever order, some of them twice.
+func (d *dice) pick(all ...string) []string {
+	var l []string
+	for range d.below(6) {
+		l = append(l, all[d.below(len(all))])
+	}
+	return l
+}
+
+// entry is the text of one of many kinds, not always one that is right.
+func (d *dice) entry() string {
+	kind := []string{"VEVENT", "VTODO"}[d.below(2)]
+	start := []string{"DTSTART;VALUE=DATE:20000101", "DTSTART:20000101T100000", "DTSTART:20000101T100000Z", "DTSTART;TZID=Z:20000101T100000"}[d.below(4)]
+	of := strings.NewReplacer("DTSTART", "RDATE", "20000101", "20000105").Replace(start)
+	rows := d.pick("SUMMARY:x", "SUMMARY:y", "g.location;X=\"a;b\":^", "NOTE:1", "x-a:1", "X-A:1", "DESCRIPTION;P=^n:\\n", "ATTENDEE;CN=\"A, B\":c")
+	if d.below(2) == 0 {
+		rows = append(rows, of, strings.Replace(of, "RDATE", "EXDATE", 1), strings.NewReplacer("RDATE", "EXDATE", "20000105", "20000103").Replace(of))
+	}
+	rows = append(rows, [][]string{nil, {"DURATION:P1D"}, {strings.NewReplacer("DTSTART", "DTEND", "20000101", "20000102").Replace(start)}, {strings.NewReplacer("DTSTART", "DUE", "20000101", "20000102").Replace(start)}}[d.below(4)]...)
+	rows = append(rows, [][]string{nil, {"RRULE:freq=daily;count=5"}, {"RRULE:BYDAY=MO,-1FR;FREQ=MONTHLY"}}[d.below(3)]...)
+	for range d.below(3) {
+		rows = append(rows, text("BEGIN:VALARM", "action:AUDIO", "TRIGGER:"+[]string{"PT0S", "-P7D", "+PT60M"}[d.below(3)], strings.Join(d.pick("X:1", "SUMMARY:2"), "\r\n"), "END:VALARM"))
+	}
+	rows = slices.Concat([]string{start}, rows)
+	for n := range d.below(3) {
+		recur := strings.NewReplacer("DTSTART", "RECURRENCE-ID", "20000101", "2000010"+string(rune('2'+n))).Replace(start)
+		other := []string{"DTSTART;VALUE=DATE:20000107", "DTSTART;TZID=A:20000107T100000", start}[d.below(3)]
+		rows = slices.Concat(rows, []string{"END:" + kind, "BEGIN:" + kind, "UID:a", recur, other}, d.pick("SUMMARY:x", "LOCATION:y", "X:1"))
+	}
+	s := with(rows...)
+	s = strings.Replace(s, "BEGIN:VEVENT", strings.Join(d.pick("X-B:1", "SUMMARY:c", "PRODID:p"), "\r\n")+"\r\n"+zoneText("Z")+zoneText("A")+"BEGIN:VEVENT", 1)
+	return strings.ReplaceAll(s, "VEVENT", kind)
+}
+
+// P16.3 and P16.4: what is read and built is read as the same, and is an entry of the same kind and UID.
+func TestAgainOfManyEntries(t *testing.T) {
+	read := 0
+	for seed := range 4000 {
+		d := dice(seed)
+		s := d.entry()
+		l, e := fields.Read(s)
+		if e != nil {
+			if _, e2 := event.Parse(s); !errors.Is(e2, errorOf(e)) {
+				t.Fatalf("%q: %v; want %v", s, e, e2)
+			}
+			continue
+		}
+		read++
+		if !slices.IsSortedFunc(l, func(a, b api.Field) int { return strings.Compare(a.Key, b.Key) }) {
+			t.Fatalf("keys do not rise: %q", l)
+		}
+		built, ok := fields.Build(l...)
+		if !ok {
+			t.Fatalf("%q is not built", l)
+		}
+		reads(t, built, l...)
+		o, _ := event.Parse(s)
+		again, e := event.Parse(built)
+		if e != nil || o.Kind != again.Kind || o.UID != again.UID || len(o.Over) != len(again.Over) || len(o.Main.Alarms) != len(again.Main.Alarms) || len(o.Main.Extra) != len(again.Main.Extra) {
+			t.Fatalf("%q is built as %q", s, built)
+		}
+	}
+	if read < 1000 {
+		t.Fatalf("only %d are read", read)
+	}
+}
+
+// errorOf is an error's number.
+func errorOf(e error) api.Errno {
+	var n api.Errno
+	errors.As(e, &n)
+	return n
+}
