@@ -8,6 +8,7 @@ import (
 	"calends/api"
 	"calends/ascii"
 	"calends/comp"
+	"calends/flaw"
 	"calends/when"
 )
 
@@ -26,18 +27,6 @@ const (
 
 // types are the words of the kinds.
 var types = [...]string{"", "BUSY-TENTATIVE", "BUSY", "BUSY-UNAVAILABLE"}
-
-// flaw is that something can't be read, with its name.
-type flaw struct {
-	name string
-	err  error
-}
-
-// Error is its text.
-func (f flaw) Error() string { return f.name + ": " + f.err.Error() }
-
-// Unwrap is the error that it wraps.
-func (f flaw) Unwrap() error { return f.err }
 
 // list is a list of busy times, with its UID and its window.
 type list struct {
@@ -70,9 +59,9 @@ func Print(uid string, from, to api.Time, l ...api.Busy) (string, error) {
 // Parse reads a list.
 func Parse(s string) (string, api.Time, api.Time, []api.Busy, error) {
 	l, e := parse(s)
-	if f := (flaw{}); errors.As(e, &f) {
+	if f := (flaw.Flaw{}); errors.As(e, &f) {
 		// Whatever is wrong with a value: the list can't be read.
-		e = flaw{f.name, api.ErrForm}
+		e = flaw.In(f.Of, api.ErrForm)
 	}
 	if e == nil && (!window(l.from, l.to) || !mayUID(l.uid)) {
 		e = api.ErrArg
@@ -101,7 +90,7 @@ func parse(s string) (list, error) {
 	}
 	c := all[0].Comps[0]
 	if v, e := only(all[0], versionName); e != nil || v != version {
-		return l, flaw{versionName, api.ErrForm}
+		return l, flaw.In(versionName, api.ErrForm)
 	}
 	if l.uid, e = only(c, uidName); e != nil {
 		return l, e
@@ -115,7 +104,7 @@ func parse(s string) (list, error) {
 	for _, p := range comp.All(c, timeName) {
 		times, e := readTimes(p)
 		if e != nil {
-			return l, flaw{timeName, e}
+			return l, flaw.In(timeName, e)
 		}
 		l.times = append(l.times, times...)
 	}
@@ -126,7 +115,7 @@ func parse(s string) (list, error) {
 func only(c api.Comp, name string) (string, error) {
 	l := comp.All(c, name)
 	if len(l) != 1 || l[0].Group != "" || len(l[0].Params) > 0 {
-		return "", flaw{name, api.ErrForm}
+		return "", flaw.In(name, api.ErrForm)
 	}
 	return l[0].Value, nil
 }
@@ -139,7 +128,7 @@ func onlyTime(c api.Comp, name string) (api.Time, error) {
 	}
 	t, e := when.Parse(value)
 	if e != nil {
-		return api.Time{}, flaw{name, e}
+		return api.Time{}, flaw.In(name, e)
 	}
 	return t, nil
 }

@@ -10,22 +10,11 @@ import (
 	"calends/ascii"
 	"calends/comp"
 	"calends/event"
+	"calends/flaw"
 	"calends/line"
 	"calends/text"
 	"calends/vcard"
 )
-
-// flaw is that a property can't be read, with its name.
-type flaw struct {
-	name string
-	err  error
-}
-
-// Error is its text.
-func (f flaw) Error() string { return f.name + ": " + f.err.Error() }
-
-// Unwrap is the error that it wraps.
-func (f flaw) Unwrap() error { return f.err }
 
 // Parse reads a card.
 func Parse(s string) (api.Card, error) {
@@ -37,7 +26,7 @@ func Parse(s string) (api.Card, error) {
 		return api.Card{}, api.ErrKind
 	}
 	c, e := read(l[0])
-	if f := (flaw{}); errors.As(e, &f) {
+	if f := (flaw.Flaw{}); errors.As(e, &f) {
 		return api.Card{}, f
 	}
 	if !Right(c) {
@@ -57,7 +46,7 @@ func read(x api.Comp) (api.Card, error) {
 		for _, p := range comp.All(x, name) {
 			one, e := readContact(p)
 			if e != nil {
-				return nil, flaw{name, e}
+				return nil, flaw.In(name, e)
 			}
 			l = append(l, one)
 		}
@@ -87,25 +76,25 @@ func readNames(c *api.Card, x api.Comp) error {
 	for _, name := range []string{vcard.Version, vcard.UID, vcard.Name, vcard.Full} {
 		for _, p := range comp.All(x, name) {
 			if p.Group != "" || len(p.Params) > 0 {
-				return flaw{name, api.ErrForm}
+				return flaw.In(name, api.ErrForm)
 			}
 			values[name] = append(values[name], p.Value)
 		}
 		if n := len(values[name]); n > 1 || n == 0 && name != vcard.Full {
-			return flaw{name, api.ErrForm}
+			return flaw.In(name, api.ErrForm)
 		}
 	}
 	if values[vcard.Version][0] != vcard.CardVersion {
-		return flaw{vcard.Version, api.ErrForm}
+		return flaw.In(vcard.Version, api.ErrForm)
 	}
 	c.UID = values[vcard.UID][0]
 	var e error
 	if c.Name, e = text.Unescape(values[vcard.Name][0]); e != nil {
-		return flaw{vcard.Name, e}
+		return flaw.In(vcard.Name, e)
 	}
 	for _, value := range values[vcard.Full] {
 		if c.Full, e = readRows(value, fullRows); e != nil {
-			return flaw{vcard.Full, e}
+			return flaw.In(vcard.Full, e)
 		}
 	}
 	return nil

@@ -9,6 +9,7 @@ import (
 	"calends/api"
 	"calends/comp"
 	"calends/entry"
+	"calends/flaw"
 	"calends/rule"
 	"calends/when"
 	"calends/zone"
@@ -16,18 +17,6 @@ import (
 
 // timeValue is what VALUE may be of moments that are no days.
 const timeValue = "DATE-TIME"
-
-// flaw is that something can't be read, with its name.
-type flaw struct {
-	name string
-	err  error
-}
-
-// Error is its text.
-func (f flaw) Error() string { return f.name + ": " + f.err.Error() }
-
-// Unwrap is the error that it wraps.
-func (f flaw) Unwrap() error { return f.err }
 
 // item is what is read of an item's component.
 type item struct {
@@ -46,9 +35,9 @@ func Parse(s string) (api.Object, error) {
 		return api.Object{}, api.ErrKind
 	}
 	o, e := read(l[0], kind)
-	if f := (flaw{}); errors.As(e, &f) {
+	if f := (flaw.Flaw{}); errors.As(e, &f) {
 		// Whatever is wrong with a value: the object can't be read.
-		return api.Object{}, flaw{f.name, api.ErrForm}
+		return api.Object{}, flaw.In(f.Of, api.ErrForm)
 	}
 	sortAll(&o)
 	if !Right(o) {
@@ -83,13 +72,13 @@ func read(c api.Comp, kind string) (api.Object, error) {
 	o := api.Object{Kind: kind}
 	versions := comp.All(c, entry.Version)
 	if len(versions) != 1 || !bare(versions[0]) || versions[0].Value != entry.CalendarVersion {
-		return o, flaw{entry.Version, api.ErrForm}
+		return o, flaw.In(entry.Version, api.ErrForm)
 	}
 	o.Extra = others(c, isVersion)
 	for _, x := range comp.Within(c, entry.Zone) {
 		z, e := zone.Read(x)
 		if e != nil {
-			return o, flaw{entry.Zone, e}
+			return o, flaw.In(entry.Zone, e)
 		}
 		o.Zones = append(o.Zones, z)
 	}
@@ -100,7 +89,7 @@ func read(c api.Comp, kind string) (api.Object, error) {
 			return o, e
 		}
 		if at > 0 && x.uid != o.UID {
-			return o, flaw{entry.UID, api.ErrForm}
+			return o, flaw.In(entry.UID, api.ErrForm)
 		}
 		o.UID = x.uid
 		if len(x.Recur) > 0 {
@@ -111,7 +100,7 @@ func read(c api.Comp, kind string) (api.Object, error) {
 		mains++
 	}
 	if mains != 1 {
-		return o, flaw{entry.Recur, api.ErrForm}
+		return o, flaw.In(entry.Recur, api.ErrForm)
 	}
 	return o, nil
 }
@@ -135,14 +124,14 @@ func readItem(c api.Comp) (item, error) {
 		}
 		count[name]++
 		if count[name] > 1 && name != entry.RDate && name != entry.EXDate {
-			return x, flaw{p.Name, api.ErrForm}
+			return x, flaw.In(p.Name, api.ErrForm)
 		}
 		if e := readKnown(&x, c.Name, p); e != nil {
-			return x, flaw{p.Name, e}
+			return x, flaw.In(p.Name, e)
 		}
 	}
 	if count[entry.UID] == 0 || count[entry.Start] == 0 {
-		return x, flaw{c.Name, api.ErrForm}
+		return x, flaw.In(c.Name, api.ErrForm)
 	}
 	for _, a := range c.Comps {
 		alarm, e := readAlarm(a)
@@ -238,11 +227,11 @@ func readMoments(p api.Prop, many bool) ([]api.Moment, error) {
 func readAlarm(c api.Comp) (api.Alarm, error) {
 	actions, triggers := comp.All(c, entry.Action), comp.All(c, entry.Trigger)
 	if len(actions) != 1 || !bare(actions[0]) || len(triggers) != 1 || !bare(triggers[0]) {
-		return api.Alarm{}, flaw{entry.AlarmIn, api.ErrForm}
+		return api.Alarm{}, flaw.In(entry.AlarmIn, api.ErrForm)
 	}
 	n, e := when.Span(triggers[0].Value)
 	if e != nil {
-		return api.Alarm{}, flaw{entry.Trigger, e}
+		return api.Alarm{}, flaw.In(entry.Trigger, e)
 	}
 	return api.Alarm{Action: actions[0].Value, Behind: n, Extra: others(c, ofAlarm)}, nil
 }

@@ -5,6 +5,7 @@ import (
 	"slices"
 
 	"calends/api"
+	"calends/flaw"
 	"calends/greg"
 	"calends/when"
 )
@@ -294,7 +295,7 @@ func (l *look) far(end int) error {
 		return nil
 	}
 	if l.Count == 0 || l.fewer() {
-		return flaw{"too many periods", api.ErrMany}
+		return flaw.In("too many periods", api.ErrMany)
 	}
 	return nil
 }

@@ -7,6 +7,7 @@ import (
 
 	"calends/api"
 	"calends/ascii"
+	"calends/flaw"
 	"calends/when"
 )
 
@@ -15,18 +16,6 @@ const maxDigits = 4
 
 // errPart is that a part can't be read.
 var errPart = errors.New("no part of a rule")
-
-// flaw is what is wrong with a part, with its word.
-type flaw struct {
-	word string
-	err  error
-}
-
-// Error is its text.
-func (f flaw) Error() string { return f.word + ": " + f.err.Error() }
-
-// Unwrap is the error that it wraps.
-func (f flaw) Unwrap() error { return f.err }
 
 // Parse reads a rule.
 func Parse(s string) (api.Rule, error) {
@@ -50,14 +39,14 @@ func read(s string) (api.Rule, error) {
 		word = ascii.Great(word)
 		met[word]++
 		if met[word] > 1 {
-			return r, flaw{word, errPart}
+			return r, flaw.In(word, errPart)
 		}
 		if e := readPart(&r, word, value); e != nil {
-			return r, flaw{word, e}
+			return r, flaw.In(word, e)
 		}
 	}
 	if met["FREQ"] == 0 {
-		return r, flaw{"FREQ", errPart}
+		return r, flaw.In("FREQ", errPart)
 	}
 	return r, nil
 }

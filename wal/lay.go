@@ -5,6 +5,7 @@ import (
 
 	"calends/api"
 	"calends/disk"
+	"calends/flaw"
 	"calends/frame"
 )
 
@@ -48,24 +49,24 @@ func lay(d *disk.Disk, from step, bytes string, h head) error {
 	case blanking:
 		for at := range heads {
 			if e := d.Write(at, make([]byte, api.Sector)); e != nil {
-				return fault{"the heads are blanked", e}
+				return flaw.In("the heads are blanked", e)
 			}
 		}
 		fallthrough
 	case laying:
 		if e := layBytes(d, bytes, h); e != nil {
-			return fault{"bytes are laid", e}
+			return flaw.In("bytes are laid", e)
 		}
 		if e := d.Flush(); e != nil {
-			return fault{"bytes are flushed", e}
+			return flaw.In("bytes are flushed", e)
 		}
 		fallthrough
 	case turning:
 		if e := d.Write(h.turn%heads, h.sector()); e != nil {
-			return fault{"the head is laid", e}
+			return flaw.In("the head is laid", e)
 		}
 		if e := d.Flush(); e != nil {
-			return fault{"the head is flushed", e}
+			return flaw.In("the head is flushed", e)
 		}
 	}
 	return nil
@@ -116,7 +117,7 @@ func latest(d *disk.Disk) (head, error) {
 	for at := range heads {
 		b, e := d.Read(at)
 		if e != nil {
-			return head{}, fault{"the heads are read", e}
+			return head{}, flaw.In("the heads are read", e)
 		}
 		h, ok := headOf(b)
 		if ok && h.turn%heads == at && h.turn > best.turn {
@@ -135,7 +136,7 @@ func load(d *disk.Disk, h head) (string, error) {
 	for sector := firstSector(d, h.half); len(bytes) < h.bytes; sector++ {
 		b, e := d.Read(sector)
 		if e != nil {
-			return "", fault{"bytes are read", e}
+			return "", flaw.In("bytes are read", e)
 		}
 		bytes = append(bytes, b...)
 	}

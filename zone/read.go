@@ -5,6 +5,7 @@ import (
 
 	"calends/api"
 	"calends/comp"
+	"calends/flaw"
 	"calends/rule"
 	"calends/when"
 )
@@ -36,9 +37,9 @@ func Read(c api.Comp) (api.Zone, error) {
 			continue
 		}
 		o, e := readObs(x)
-		if f := (fault{}); errors.As(e, &f) {
+		if f := (flaw.Flaw{}); errors.As(e, &f) {
 			// Whatever is wrong with a value: the component can't be read.
-			return api.Zone{}, fault{f.name, api.ErrForm}
+			return api.Zone{}, flaw.In(f.Of, api.ErrForm)
 		}
 		z.Obs = append(z.Obs, o)
 	}
@@ -65,7 +66,7 @@ func readObs(c api.Comp) (api.Obs, error) {
 	o := api.Obs{Name: c.Name}
 	for _, p := range parts(&o) {
 		if e := readPart(c, p); e != nil {
-			return o, fault{c.Name, e}
+			return o, flaw.In(c.Name, e)
 		}
 	}
 	return o, nil
