@@ -38,7 +38,7 @@ type list struct {
 // Print is a list's text.
 func Print(uid string, from, to api.Time, l ...api.Busy) (string, error) {
 	switch {
-	case !mayUID(uid) || !window(from, to) || !slices.Equal(Merge(clipped(l, from, to)...), l):
+	case !mayUID(uid) || !isWindow(from, to) || !slices.Equal(Merge(clipped(l, from, to)...), l):
 		return "", api.ErrArg
 	case len(l) > api.MaxBusy:
 		return "", api.ErrMany
@@ -63,7 +63,7 @@ func Parse(s string) (string, api.Time, api.Time, []api.Busy, error) {
 		// Whatever is wrong with a value: the list can't be read.
 		e = flaw.In(f.Of, api.ErrForm)
 	}
-	if e == nil && (!window(l.from, l.to) || !mayUID(l.uid)) {
+	if e == nil && (!isWindow(l.from, l.to) || !mayUID(l.uid)) {
 		e = api.ErrArg
 	}
 	if e != nil {
