@@ -34,9 +34,9 @@ func Parse(s string) (api.Rule, error) {
 func read(s string) (api.Rule, error) {
 	r := api.Rule{Interval: 1}
 	met := map[string]int{}
-	for part := range strings.SplitSeq(s, ";") {
+	// The whole text at once, so that no value is left out: letters change nothing, be they of a word or of a time.
+	for part := range strings.SplitSeq(ascii.Great(s), ";") {
 		word, value, _ := strings.Cut(part, "=")
-		word = ascii.Great(word)
 		met[word]++
 		if met[word] > 1 {
 			return r, flaw.In(word, errPart)
@@ -138,20 +138,20 @@ func nth(s string) (api.Nth, error) {
 	return api.Nth{N: n, Day: day}, nil
 }
 
-// weekday reads a day of the week.
+// weekday reads a day of the week in great letters.
 func weekday(s string) (int, error) {
 	for at, word := range weekdays {
-		if word == ascii.Great(s) {
+		if word == s {
 			return at, nil
 		}
 	}
 	return 0, errPart
 }
 
-// frequency reads a frequency.
+// frequency reads a frequency in great letters.
 func frequency(s string) (int, error) {
 	for at, word := range frequencies {
-		if word == ascii.Great(s) {
+		if word == s {
 			return at, nil
 		}
 	}

@@ -239,7 +239,7 @@ func TestParseRefusesOtherTexts(t *testing.T) {
 	for _, s := range []string{
 		"", ";", "FREQ", "FREQ=", "FREQ=NEVER", "FREQ=DAILY;", ";FREQ=DAILY", "FREQ=DAILY;;WKST=MO", "COUNT=5", "FREQ=DAILY;FREQ=DAILY", "FREQ=DAILY;COUNT=1;count=1",
 		"FREQ=DAILY;X=1", "FREQ=DAILY ", " FREQ=DAILY", "FREQ =DAILY", "FREQ=DAILY;INTERVAL=", "FREQ=DAILY;INTERVAL=a", "FREQ=DAILY;INTERVAL=00001", "FREQ=DAILY;INTERVAL=+", "FREQ=DAILY;INTERVAL=--1", "FREQ=DAILY;COUNT=1,2",
-		"FREQ=DAILY;UNTIL=", "FREQ=DAILY;UNTIL=1997", "FREQ=DAILY;UNTIL=19970229", "FREQ=DAILY;UNTIL=19971224t000000z", "FREQ=DAILY;UNTIL=19971224,19971225",
+		"FREQ=DAILY;UNTIL=", "FREQ=DAILY;UNTIL=1997", "FREQ=DAILY;UNTIL=19970229", "FREQ=DAILY;UNTIL=19971224T000000ZZ", "freq=daily;until=19971224x000000z", "freq=daily;until=19971224z", "freq=daily;until=t000000z", "FREQ=DAILY;UNTIL=19971224,19971225",
 		"FREQ=DAILY;BYMONTH=", "FREQ=DAILY;BYMONTH=1,", "FREQ=DAILY;BYMONTH=,1", "FREQ=DAILY;BYMONTH=1;BYMONTH=2", "FREQ=DAILY;BYMONTH=1 ,2",
 		"FREQ=DAILY;BYDAY=", "FREQ=DAILY;BYDAY=M", "FREQ=DAILY;BYDAY=MON", "FREQ=DAILY;BYDAY=1", "FREQ=MONTHLY;BYDAY=0MO", "FREQ=MONTHLY;BYDAY=-0000MO", "FREQ=MONTHLY;BYDAY=+MO", "FREQ=YEARLY;BYDAY=00001MO", "FREQ=DAILY;WKST=", "FREQ=DAILY;WKST=1MO", "FREQ=DAILY;BYDAY=É",
 		"FREQ=DAILY;COUNT=0;X=1", "FREQ=DAILY;BYMONTH=13;BYDAY=XX", "FREQ=DAILY=1",
@@ -279,6 +279,31 @@ func (d *dice) list(least, most int) []int {
 	return l
 }
 
+// TestLettersChangeNothing puts each letter of a text, and all of them, into small ones: what is read stays the same.
+func TestLettersChangeNothing(t *testing.T) {
+	for _, s := range []string{
+		"FREQ=MINUTELY;INTERVAL=3;UNTIL=00010420T064559;BYMONTH=1;BYSECOND=6",
+		"FREQ=DAILY;UNTIL=20240131T235959Z",
+		"FREQ=WEEKLY;UNTIL=20240131;BYDAY=MO,FR;WKST=SU",
+		"FREQ=YEARLY;COUNT=7;BYMONTH=3;BYYEARDAY=-1;BYMONTHDAY=5;BYDAY=-1TU,20WE,TH,SA;BYHOUR=1;BYMINUTE=2;BYSECOND=3;BYSETPOS=-1",
+		"FREQ=YEARLY;BYWEEKNO=-53;WKST=TU", "FREQ=MONTHLY;BYDAY=5SA", "FREQ=HOURLY", "FREQ=SECONDLY",
+	} {
+		r, e := rule.Parse(s)
+		if e != nil {
+			t.Fatalf("Parse(%q): %v", s, e)
+		}
+		parses(t, s, s, r)
+		parses(t, strings.ToLower(s), s, r)
+		for at := range s {
+			parses(t, s[:at]+strings.ToLower(s[at:at+1])+s[at+1:], s, r)
+		}
+	}
+	// Only a to z are letters that are small or great: others that Unicode turns into K, S or I are not.
+	for _, s := range []string{"FREQ=wee\u212aly", "FREQ=DAILY;W\u212aST=MO", "FREQ=DAILY;BYDAY=\u017fU", "FREQ=DA\u0131LY"} {
+		unparsed(t, s, api.ErrForm)
+	}
+}
+
 func TestBackAndAgain(t *testing.T) {
 	right := 0
 	for seed := range 20000 {
@@ -309,9 +334,7 @@ func TestBackAndAgain(t *testing.T) {
 			j := d.below(i + 1)
 			parts[i], parts[j] = parts[j], parts[i]
 		}
-		turned := strings.Join(parts, ";")
-		turned = strings.ReplaceAll(turned, "19971224t000000z", "19971224T000000Z")
-		parses(t, turned, s, r)
+		parses(t, strings.Join(parts, ";"), s, r)
 	}
 	if right < 3000 {
 		t.Fatalf("only %d rules are right", right)
